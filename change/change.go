@@ -1,4 +1,4 @@
-// Package change: a desk where images are changed, for the layers that change them: see doc/07-writes.md and doc/08-snaps.md.
+// Package change: a desk where images are changed, for the layers that change them: see doc/07-writes.md, doc/08-snaps.md, doc/09-mend.md and doc/11-move.md.
 package change
 
 import (

@@ -1,0 +1,12 @@
+// Package fresh: an image to which nothing was written yet, for the layers that begin with one: see doc/10-stack.md and doc/11-move.md.
+package fresh
+
+import (
+	"slipsheet/api"
+	"slipsheet/writes"
+)
+
+// Image has that many pages, one slot, the first one, which is Free, and no table. ErrRange, unless guest is from 0 to MaxGuest.
+func Image(guest int) (api.Image, api.Errno) {
+	return writes.Resize(api.Image{Slots: make([]api.Slot, 1), Refs: make([]int, 1)}, guest)
+}
