@@ -1,4 +1,4 @@
-// Package fresh: an image to which nothing was written yet, for the layers that begin with one: see doc/10-stack.md and doc/11-move.md.
+// Package fresh: an image to which nothing was written yet, for the layers that begin with one: see doc/10-stack.md, doc/11-move.md and doc/13-desk.md.
 package fresh
 
 import (
